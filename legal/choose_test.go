@@ -5,6 +5,7 @@ import (
 	"testing"
 
 	"coxless/api"
+	"coxless/arrange"
 	"coxless/legal"
 )
 
@@ -179,7 +180,7 @@ func TestChooseAgainstTheWords(t *testing.T) {
 		}
 	}
 	k := 0
-	eachSet(4, func(l []known) {
+	for l := range arrange.Multisets(pool(), 4) {
 		// Of each set another order; the orders of one set are tried with Check.
 		k++
 		turned := slices.Concat(l[k%4:], l[:k%4])
@@ -187,7 +188,7 @@ func TestChooseAgainstTheWords(t *testing.T) {
 			turned[1], turned[2] = turned[2], turned[1]
 		}
 		ask(turned...)
-	})
+	}
 	for _, pair := range [][2]int{{0, 0}, {0, 1}, {0, 2}, {0, 3}, {1, 2}, {1, 3}, {2, 3}} {
 		if count[pair] < 50 {
 			t.Errorf("the pair %v is told but %d times", pair, count[pair])

@@ -5,6 +5,7 @@ import (
 	"testing"
 
 	"coxless/api"
+	"coxless/arrange"
 	"coxless/legal"
 )
 
@@ -43,21 +44,9 @@ func flagged(flags int, insts ...api.Inst) api.Packet {
 
 // eachOrder calls do with the packet in every order of its instructions.
 func eachOrder(p api.Packet, do func(p api.Packet)) {
-	l := slices.Clone(p.Insts)
-	var swap func(at int)
-	swap = func(at int) {
-		if at >= len(l)-1 {
-			p.Insts = slices.Clone(l)
-			do(p)
-			return
-		}
-		for k := at; k < len(l); k++ {
-			l[at], l[k] = l[k], l[at]
-			swap(at + 1)
-			l[at], l[k] = l[k], l[at]
-		}
+	for p.Insts = range arrange.Orders(p.Insts) {
+		do(p)
 	}
-	swap(0)
 }
 
 func check(t *testing.T, want api.Errno, p api.Packet) {
@@ -434,14 +423,14 @@ func TestPacketsAgainstTheWords(t *testing.T) {
 func TestEveryOrder(t *testing.T) {
 	k := 0
 	for n := range 5 {
-		eachSet(n, func(l []known) {
+		for l := range arrange.Multisets(pool(), n) {
 			k++
 			p := flagged(k%16, instsOf(l)...)
 			check(t, wanted(l, p), p)
 			if k%16 < 4 {
 				checkTakes(t, wantedTakes(l, p), p)
 			}
-		})
+		}
 	}
 }
 

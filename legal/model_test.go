@@ -5,6 +5,7 @@ import (
 	"strings"
 
 	"coxless/api"
+	"coxless/arrange"
 	"coxless/rules"
 )
 
@@ -128,29 +129,13 @@ func wanted(l []known, p api.Packet) api.Errno {
 	return api.OK
 }
 
-// eachSet calls do with each multiset of n of the pool, in one order.
-func eachSet(n int, do func(l []known)) {
-	all := pool()
-	var extend func(l []known, from int)
-	extend = func(l []known, from int) {
-		if len(l) == n {
-			do(l)
-			return
-		}
-		for i := from; i < len(all); i++ {
-			extend(append(l, all[i]), i)
-		}
-	}
-	extend(make([]known, 0, n), 0)
-}
-
 // eachPacket calls do with each multiset of up to four of the pool, and each setting of the flags.
 func eachPacket(do func(l []known, p api.Packet)) {
 	for n := range 5 {
-		eachSet(n, func(l []known) {
+		for l := range arrange.Multisets(pool(), n) {
 			for flags := range 16 {
 				do(l, flagged(flags, instsOf(l)...))
 			}
-		})
+		}
 	}
 }

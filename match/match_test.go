@@ -5,6 +5,7 @@ import (
 	"slices"
 	"testing"
 
+	"coxless/arrange"
 	"coxless/match"
 )
 
@@ -100,20 +101,6 @@ func enough(masks []uint8) bool {
 	return true
 }
 
-// orders returns the masks in every order.
-func orders(masks []uint8) [][]uint8 {
-	if len(masks) == 0 {
-		return [][]uint8{{}}
-	}
-	var all [][]uint8
-	for i, first := range masks {
-		for _, rest := range orders(slices.Delete(slices.Clone(masks), i, i+1)) {
-			all = append(all, append([]uint8{first}, rest...))
-		}
-	}
-	return all
-}
-
 // eachLow calls do with all sequences of n masks without higher bits.
 func eachLow(n int, do func(masks []uint8)) {
 	masks := make([]uint8, n)
@@ -157,7 +144,7 @@ func wantLeast(t *testing.T, masks []uint8) {
 
 func wantNoneInAnyOrder(t *testing.T, masks ...uint8) {
 	t.Helper()
-	for _, order := range orders(masks) {
+	for order := range arrange.Orders(masks) {
 		wantNone(t, order...)
 	}
 }
@@ -274,7 +261,7 @@ func TestLeastSlotThatMustNotBeTaken(t *testing.T) {
 }
 
 func TestFourMasksOfOneSlotEach(t *testing.T) {
-	for _, order := range orders([]uint8{1, 2, 4, 8}) {
+	for order := range arrange.Orders([]uint8{1, 2, 4, 8}) {
 		want := make([]int, 4)
 		for i, mask := range order {
 			want[i] = slices.Index(powers[:], int(mask))
@@ -376,7 +363,7 @@ func TestFitsInEveryOrder(t *testing.T) {
 				return
 			}
 			want := match.Fits(masks...)
-			for _, order := range orders(masks) {
+			for order := range arrange.Orders(masks) {
 				if _, ok := match.Slots(order...); ok != want || match.Fits(order...) != want {
 					t.Errorf("%d: Slots %t, Fits %t, but Fits(%d) is %t", order, ok, match.Fits(order...), masks, want)
 				}

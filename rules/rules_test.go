@@ -5,29 +5,14 @@ import (
 	"testing"
 
 	"coxless/api"
+	"coxless/arrange"
 	"coxless/rules"
 )
-
-// orders returns the instructions in every order.
-func orders(l []api.Inst) [][]api.Inst {
-	if len(l) == 0 {
-		return [][]api.Inst{{}}
-	}
-	var all [][]api.Inst
-	for i, first := range l {
-		for _, rest := range orders(slices.Delete(slices.Clone(l), i, i+1)) {
-			all = append(all, append([]api.Inst{first}, rest...))
-		}
-	}
-	return all
-}
 
 // check asks for the packet in every order of its instructions.
 func check(t *testing.T, want api.Errno, p api.Packet) {
 	t.Helper()
-	l := p.Insts
-	for _, order := range orders(l) {
-		p.Insts = order
+	for p.Insts = range arrange.Orders(p.Insts) {
 		if got := rules.Check(p); got != want {
 			t.Errorf("Check(%+v): %d, not %d", p, got, want)
 		}
@@ -518,32 +503,12 @@ func pool() []api.Inst {
 	}
 }
 
-// eachSet calls do with the indexes of each multiset of n of the pool.
-func eachSet(n int, do func(set []int)) {
-	var extend func(set []int, most int)
-	extend = func(set []int, most int) {
-		if len(set) == n {
-			do(set)
-			return
-		}
-		for i := range most + 1 {
-			extend(append(set, i), i)
-		}
-	}
-	extend(make([]int, 0, n), len(pool())-1)
-}
-
 // eachPacket calls do with each packet of up to four instructions of the pool, in one order.
 func eachPacket(do func(p api.Packet)) {
-	all := pool()
 	for n := range 5 {
-		eachSet(n, func(set []int) {
-			insts := make([]api.Inst, n)
-			for i, k := range set {
-				insts[i] = all[k]
-			}
+		for insts := range arrange.Multisets(pool(), n) {
 			do(packet(insts...))
-		})
+		}
 	}
 }
 
