@@ -1,4 +1,4 @@
-// Package arrange lists for the tests what is to be tried in every order, and in every combination.
+// Package arrange lists for the tests what is to be tried in every order, in every combination and in every sequence.
 package arrange
 
 import (
@@ -43,6 +43,29 @@ func extend[T any](chosen, rest []T, n int, yield func([]T) bool) bool {
 	}
 	for i, next := range rest {
 		if !extend(append(chosen, next), rest[i:], n-1, yield) {
+			return false
+		}
+	}
+	return true
+}
+
+// Sequences yields each sequence of up to n out of all, which may stand in it more than once, ahead of those that go on from it and in new memory.
+func Sequences[T any](all []T, n int) iter.Seq[[]T] {
+	return func(yield func([]T) bool) {
+		goOn(make([]T, 0, max(n, 0)), all, n, yield)
+	}
+}
+
+// goOn yields what there is so far, and that with each sequence of up to n more out of all; it is false if no more are wanted.
+func goOn[T any](soFar, all []T, n int, yield func([]T) bool) bool {
+	if !yield(slices.Clone(soFar)) {
+		return false
+	}
+	if n <= 0 {
+		return true
+	}
+	for _, next := range all {
+		if !goOn(append(soFar, next), all, n-1, yield) {
 			return false
 		}
 	}

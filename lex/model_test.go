@@ -8,6 +8,7 @@ import (
 	"testing"
 
 	"coxless/api"
+	"coxless/arrange"
 	"coxless/lex"
 )
 
@@ -90,17 +91,9 @@ func checkModel(t *testing.T, text string) {
 
 // texts goes through all texts of up to n of the pieces.
 func texts(pieces []string, n int, do func(text string)) {
-	var extend func(text string, n int)
-	extend = func(text string, n int) {
-		do(text)
-		if n == 0 {
-			return
-		}
-		for _, p := range pieces {
-			extend(text+p, n-1)
-		}
+	for l := range arrange.Sequences(pieces, n) {
+		do(strings.Join(l, ""))
 	}
-	extend("", n)
 }
 
 // pieces are of every state that a text may be in, and of what is wrong.
